@@ -3,7 +3,9 @@ package polygons
 
 import (
 	"polygons/api"
+	"polygons/json"
 	"polygons/lists"
+	"polygons/wkb"
 	"polygons/wkt"
 )
 
@@ -32,17 +34,13 @@ func (x *Shape) Points() [][][]api.Pt {
 
 // Decode tells what a text says (P4 to P6).
 func Decode(format int, s string) (*Shape, api.Errno) {
-	if format != api.WKT && format != api.WKB && format != api.JSON {
+	if !isFormat(format) {
 		return nil, api.ErrArg
 	}
 	if len(s) > api.MaxBytes {
 		return nil, api.ErrLong
 	}
-	// Of the other two formats no text is known yet.
-	if format != api.WKT {
-		return nil, api.ErrSyntax
-	}
-	polys, fault := wkt.Read(s)
+	polys, fault := read(format, s)
 	if fault != api.OK {
 		return nil, fault
 	}
@@ -51,10 +49,39 @@ func Decode(format int, s string) (*Shape, api.Errno) {
 
 // Encode writes a set (P4 to P6).
 func (x *Shape) Encode(format int, order int) (string, api.Errno) {
-	if x == nil || format != api.WKT || order != 0 {
+	if x == nil || !isFormat(format) || !isOrder(format, order) {
 		return "", api.ErrArg
 	}
-	return wkt.Write(x.polys), api.OK
+	return write(x.polys, format, order), api.OK
+}
+
+func isFormat(format int) bool {
+	return format == api.WKT || format == api.WKB || format == api.JSON
+}
+
+// isOrder: bytes have two orders, texts have one.
+func isOrder(format int, order int) bool {
+	return order == 0 || order == 1 && format == api.WKB
+}
+
+func read(format int, s string) ([][][]api.Pt, api.Errno) {
+	switch format {
+	case api.WKB:
+		return wkb.Read(s)
+	case api.JSON:
+		return json.Read(s)
+	}
+	return wkt.Read(s)
+}
+
+func write(polys [][][]api.Pt, format int, order int) string {
+	switch format {
+	case api.WKB:
+		return wkb.Write(polys, order)
+	case api.JSON:
+		return json.Write(polys)
+	}
+	return wkt.Write(polys)
 }
 
 // Validate tells the least clause that does not hold (P7).

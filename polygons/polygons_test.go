@@ -35,18 +35,38 @@ func mustMake(t *testing.T, m [][][]api.Pt) *Shape {
 
 func mustDecode(t *testing.T, s string) *Shape {
 	t.Helper()
-	x, e := Decode(api.WKT, s)
+	return mustRead(t, api.WKT, s)
+}
+
+func mustRead(t *testing.T, format int, s string) *Shape {
+	t.Helper()
+	x, e := Decode(format, s)
 	if x == nil || e != api.OK {
-		t.Fatalf("P4: Decode(%q) = %v, %d, want a set", s, x, e)
+		t.Fatalf("P4: Decode(%d, %q) = %v, %d, want a set", format, s, x, e)
 	}
 	return x
 }
 
+func mustEncode(t *testing.T, x *Shape, format int, order int) string {
+	t.Helper()
+	s, e := x.Encode(format, order)
+	if s == "" || e != api.OK {
+		t.Fatalf("P4: Encode(%d, %d) = %q, %d, want a text", format, order, s, e)
+	}
+	return s
+}
+
+// writings: every format with every order that it has.
+var writings = [][2]int{{api.WKT, 0}, {api.WKB, 0}, {api.WKB, 1}, {api.JSON, 0}}
+
 // P1: a set just without an error, and the empty string with one.
 func TestEnds(t *testing.T) {
 	numbers := []int{math.MinInt, math.MinInt32, -2, -1, 0, 1, 2, 3, 4, math.MaxInt32, math.MaxInt}
-	texts := []string{"", " ", square, "MULTIPOLYGON EMPTY", "MULTIPOLYGON (((", "\x00\xff", strings.Repeat("(", api.MaxBytes), "MULTIPOLYGON" + strings.Repeat("(", 5000), strings.Repeat("9", 1<<16), "MULTIPOLYGON (((" + strings.Repeat("0 0,", 1400) + "0 0)))"}
+	texts := []string{"", " ", square, "MULTIPOLYGON EMPTY", "MULTIPOLYGON (((", "\x00\xff", strings.Repeat("(", api.MaxBytes), "MULTIPOLYGON" + strings.Repeat("(", 5000), strings.Repeat("9", 1<<16), "MULTIPOLYGON (((" + strings.Repeat("0 0,", 1400) + "0 0)))", "{", strings.Repeat("[", api.MaxBytes), "{\"a\":" + strings.Repeat("[", 5000), "{\"a\":\"" + strings.Repeat("\\", 5000), "\x00\x00\x00\x00\x06\xff\xff\xff\xff" + strings.Repeat("\x00\x00\x00\x00\x03\x00\x00\x00\x00", 600), strings.Repeat("\x01", api.MaxBytes)}
 	x := mustDecode(t, square)
+	for _, w := range writings {
+		texts = append(texts, mustEncode(t, x, w[0], w[1]))
+	}
 	for _, f := range numbers {
 		for _, s := range texts {
 			if y, e := Decode(f, s); (y == nil) != (e != api.OK) {
@@ -106,7 +126,11 @@ func TestPointsAreFresh(t *testing.T) {
 	want := [][][]api.Pt{{triangle(), triangle()}, {triangle()}}
 	made := mustMake(t, [][][]api.Pt{{shared, shared}, {shared}})
 	read := mustDecode(t, "MULTIPOLYGON (((0 0, 1 0, 0 1, 0 0), (0 0, 1 0, 0 1, 0 0)), ((0 0, 1 0, 0 1, 0 0)))")
-	for _, x := range []*Shape{made, read} {
+	sets := []*Shape{made, read}
+	for _, w := range writings {
+		sets = append(sets, mustRead(t, w[0], mustEncode(t, made, w[0], w[1])))
+	}
+	for _, x := range sets {
 		text, _ := x.Encode(api.WKT, 0)
 		for range 2 {
 			p := x.Points()
@@ -230,7 +254,7 @@ func TestEncode(t *testing.T) {
 		}
 	}
 	x := mustDecode(t, square)
-	for _, c := range [][2]int{{api.WKT, 1}, {api.WKT, -1}, {api.WKT, math.MinInt}, {api.JSON, 1}, {api.WKB, 2}, {api.WKB, -1}, {-1, 0}, {3, 0}, {math.MaxInt, 0}} {
+	for _, c := range [][2]int{{api.WKT, 1}, {api.WKT, -1}, {api.WKT, math.MinInt}, {api.JSON, 1}, {api.JSON, -1}, {api.WKB, 2}, {api.WKB, -1}, {api.WKB, math.MinInt}, {-1, 0}, {-1, 1}, {3, 0}, {math.MaxInt, 0}} {
 		if s, e := x.Encode(c[0], c[1]); s != "" || e != api.ErrArg {
 			t.Errorf("P4: Encode(%d, %d) = %q, %d, want ErrArg", c[0], c[1], s, e)
 		}

@@ -32,7 +32,7 @@ func agree(t *testing.T, s string) {
 	}
 }
 
-var texts = []string{
+var samples = []string{
 	"MULTIPOLYGON EMPTY",
 	" MULTIPOLYGON\r\n\tEMPTY ",
 	"MULTIPOLYGON(((0 0)))",
@@ -44,7 +44,7 @@ var texts = []string{
 // Every text one byte away from one that is right.
 func TestNeighbours(t *testing.T) {
 	const bytes = "( ),.+-0e1E\t\n\r\v\f\x00x\"[]MYT\xa0\xff"
-	for _, s := range texts {
+	for _, s := range samples {
 		if !grammar.MatchString(s) {
 			t.Fatalf("the test's own text %q", s)
 		}
@@ -74,11 +74,11 @@ func TestRead(t *testing.T) {
 		m [][][]api.Pt
 		e api.Errno
 	}{
-		{texts[0], nil, api.OK}, {texts[1], nil, api.OK},
-		{texts[2], [][][]api.Pt{{{{X: 0, Y: 0}}}}, api.OK},
-		{texts[3], [][][]api.Pt{{{{X: 0, Y: 0}, {X: 17, Y: 0}, {X: 16, Y: 16}, {X: 0, Y: 0}}}}, api.OK},
-		{texts[4], [][][]api.Pt{{{{X: 0, Y: 0}, {X: 16, Y: 0}, {X: 16, Y: 40}, {X: 0, Y: 0}}, {{X: 16, Y: 16}, {X: 32, Y: 32}, {X: 16, Y: 16}}}, {{{X: 48, Y: 48}}, {{X: 64, Y: 64}}}}, api.OK},
-		{texts[5], nil, api.ErrRange},
+		{samples[0], nil, api.OK}, {samples[1], nil, api.OK},
+		{samples[2], [][][]api.Pt{{{{X: 0, Y: 0}}}}, api.OK},
+		{samples[3], [][][]api.Pt{{{{X: 0, Y: 0}, {X: 17, Y: 0}, {X: 16, Y: 16}, {X: 0, Y: 0}}}}, api.OK},
+		{samples[4], [][][]api.Pt{{{{X: 0, Y: 0}, {X: 16, Y: 0}, {X: 16, Y: 40}, {X: 0, Y: 0}}, {{X: 16, Y: 16}, {X: 32, Y: 32}, {X: 16, Y: 16}}}, {{{X: 48, Y: 48}}, {{X: 64, Y: 64}}}}, api.OK},
+		{samples[5], nil, api.ErrRange},
 		// A wrong number does not hide a wrong text, ahead of it or behind.
 		{"MULTIPOLYGON (((0.1 0)))", nil, api.ErrRange}, {"MULTIPOLYGON (((0 0.1)))", nil, api.ErrRange}, {"MULTIPOLYGON (((0 0), (1 1)), ((2 2, 3 4096)))", nil, api.ErrRange}, {"MULTIPOLYGON (((0.1 0)), (2 2))", nil, api.ErrSyntax}, {"MULTIPOLYGON (((0.1 0))", nil, api.ErrSyntax}, {"MULTIPOLYGON (((0.1 0))) EMPTY", nil, api.ErrSyntax}, {"MULTIPOLYGON (((1e400)))", nil, api.ErrSyntax},
 	} {
