@@ -3,6 +3,7 @@ package polygons
 
 import (
 	"polygons/api"
+	"polygons/clauses"
 	"polygons/json"
 	"polygons/lists"
 	"polygons/wkb"
@@ -85,7 +86,12 @@ func write(polys [][][]api.Pt, format int, order int) string {
 }
 
 // Validate tells the least clause that does not hold (P7).
-func (x *Shape) Validate() int { return 0 }
+func (x *Shape) Validate() int {
+	if x == nil {
+		return api.Valid
+	}
+	return clauses.Least(x.polys)
+}
 
 // Canonical gives the same set of points, written in the one way (P8).
 // Without an error a set would have to be there (P1): so there is one for now.
