@@ -268,3 +268,34 @@ func TestSegments(t *testing.T) {
 		t.Errorf("Segments of nothing = %v", got)
 	}
 }
+
+// P9: borders count; a hole counts in its own polygon alone.
+func TestInSet(t *testing.T) {
+	box := func(low int, high int) []api.Pt {
+		return []api.Pt{pt(low, low), pt(high, low), pt(high, high), pt(low, high), pt(low, low)}
+	}
+	ringed := [][]api.Pt{box(0, 8), box(1, 3), box(4, 7)}
+	sets := [][][][]api.Pt{{}, {{}}, {ringed}, {ringed, {box(5, 6)}}, {{box(5, 6)}, ringed}}
+	for _, c := range []struct {
+		p  Spot
+		in []bool
+	}{
+		{At(pt(0, 0)), []bool{false, false, true, true, true}},
+		{At(pt(8, 3)), []bool{false, false, true, true, true}},
+		{At(pt(9, 3)), []bool{false, false, false, false, false}},
+		{At(pt(-1, -1)), []bool{false, false, false, false, false}},
+		{At(pt(1, 1)), []bool{false, false, true, true, true}},
+		{At(pt(2, 2)), []bool{false, false, false, false, false}},
+		{At(pt(4, 5)), []bool{false, false, true, true, true}},
+		{Middle(pt(4, 5), pt(5, 5)), []bool{false, false, false, false, false}},
+		{At(pt(5, 5)), []bool{false, false, false, true, true}},
+		{Middle(pt(5, 5), pt(6, 6)), []bool{false, false, false, true, true}},
+		{Middle(pt(3, 3), pt(4, 4)), []bool{false, false, true, true, true}},
+	} {
+		for i, m := range sets {
+			if in := InSet(m, c.p); in != c.in[i] {
+				t.Errorf("P9: InSet of set %d, %v = %v", i, c.p, in)
+			}
+		}
+	}
+}

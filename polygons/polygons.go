@@ -2,10 +2,15 @@
 package polygons
 
 import (
+	"strconv"
+
+	"polygons/apart"
 	"polygons/api"
+	"polygons/canon"
 	"polygons/clauses"
 	"polygons/json"
 	"polygons/lists"
+	"polygons/plane"
 	"polygons/wkb"
 	"polygons/wkt"
 )
@@ -93,14 +98,53 @@ func (x *Shape) Validate() int {
 	return clauses.Least(x.polys)
 }
 
+// isValid: what is no set is not valid either, so that there is an answer.
+func (x *Shape) isValid() bool {
+	return x != nil && clauses.Least(x.polys) == api.Valid
+}
+
 // Canonical gives the same set of points, written in the one way (P8).
-// Without an error a set would have to be there (P1): so there is one for now.
-func (x *Shape) Canonical() (*Shape, api.Errno) { return nil, api.ErrInvalid }
+func (x *Shape) Canonical() (*Shape, api.Errno) {
+	if !x.isValid() {
+		return nil, api.ErrInvalid
+	}
+	return &Shape{polys: canon.Form(x.polys)}, api.OK
+}
 
 // Has tells whether a point lies in the set (P9).
-func (x *Shape) Has(a int, b int, w int) (bool, api.Errno) { return false, api.OK }
+func (x *Shape) Has(a int, b int, w int) (bool, api.Errno) {
+	if !isPart(a) || !isPart(b) || !isPart(w) || w < 1 {
+		return false, api.ErrArg
+	}
+	if !x.isValid() {
+		return false, api.ErrInvalid
+	}
+	p := plane.Spot{X: int64(a), Y: int64(b), W: int64(w)}
+	return plane.InSet(x.polys, p), api.OK
+}
+
+// isPart compares with both ends: the least int has no amount.
+func isPart(n int) bool {
+	return -api.MaxPart <= n && n <= api.MaxPart
+}
 
 // Separate gives a point that lies in just one of two sets (P10).
 func (x *Shape) Separate(y *Shape) (string, string, string, api.Errno) {
-	return "", "", "", api.OK
+	one, fault := x.Canonical()
+	if fault != api.OK {
+		return "", "", "", fault
+	}
+	other, fault := y.Canonical()
+	if fault != api.OK {
+		return "", "", "", fault
+	}
+	p, found := apart.Spot(one.polys, other.polys)
+	if !found {
+		return "", "", "", api.ErrSame
+	}
+	return digits(p.X), digits(p.Y), digits(p.W), api.OK
+}
+
+func digits(n int64) string {
+	return strconv.FormatInt(n, 10)
 }

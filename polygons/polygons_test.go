@@ -24,6 +24,17 @@ func triangle() []api.Pt {
 	return ring(0, 0, 16, 0, 0, 16, 0, 0)
 }
 
+// comb: a valid ring of as many points as there may be.
+func comb() []api.Pt {
+	r := make([]api.Pt, api.MaxPoints)
+	for i := range r {
+		r[i] = api.Pt{X: api.MaxCoord - 600*i, Y: api.MaxCoord * (i % 2)}
+	}
+	r[api.MaxPoints-2] = api.Pt{X: -api.MaxCoord, Y: -api.MaxCoord}
+	r[api.MaxPoints-1] = r[0]
+	return r
+}
+
 func mustMake(t *testing.T, m [][][]api.Pt) *Shape {
 	t.Helper()
 	x, e := Make(m)
@@ -84,8 +95,33 @@ func TestEnds(t *testing.T) {
 			t.Errorf("P1: Make(%.40v) = %v, %d", m, y, e)
 		}
 	}
-	if y, e := x.Canonical(); (y == nil) != (e != api.OK) {
-		t.Errorf("P1: Canonical = %v, %d", y, e)
+}
+
+// P1: Canonical, Has and Separate of the longest sets and of those that say
+// nothing.
+func TestAsksEnd(t *testing.T) {
+	same := make([]api.Pt, api.MaxPoints)
+	lying := moved([][][]api.Pt{{comb()}}, func(p api.Pt) api.Pt { return api.Pt{X: p.Y, Y: p.X} })
+	var sets []*Shape
+	for _, m := range [][][][]api.Pt{nil, {{same}}, {{comb()}}, lying, {{triangle()}}, {{triangle(), triangle()}}} {
+		sets = append(sets, mustMake(t, m))
+	}
+	numbers := []int{math.MinInt, math.MinInt32, -api.MaxPart, -1, 0, 1, api.MaxPart, math.MaxInt32, math.MaxInt}
+	for _, x := range sets {
+		if y, e := x.Canonical(); (y == nil) != (e != api.OK) {
+			t.Errorf("P1: Canonical = %v, %d", y, e)
+		}
+		for i := range len(numbers) * len(numbers) * len(numbers) {
+			a, b, w := numbers[i%9], numbers[i/9%9], numbers[i/81]
+			if in, e := x.Has(a, b, w); in && e != api.OK {
+				t.Errorf("P1: Has(%d, %d, %d) = %v, %d", a, b, w, in, e)
+			}
+		}
+		for _, y := range sets {
+			if p, q, d, e := x.Separate(y); (p == "") != (e != api.OK) || (q == "") != (e != api.OK) || (d == "") != (e != api.OK) {
+				t.Errorf("P1: Separate = %q, %q, %q, %d", p, q, d, e)
+			}
+		}
 	}
 }
 
@@ -97,6 +133,21 @@ func TestNoSet(t *testing.T) {
 		}
 		if s, e := x.Encode(api.WKT, 0); (s == "") != (e != api.OK) {
 			t.Errorf("P1: Encode of no set = %q, %d", s, e)
+		}
+		if y, e := x.Canonical(); (y == nil) != (e != api.OK) {
+			t.Errorf("P1: Canonical of no set = %v, %d", y, e)
+		}
+		if in, _ := x.Has(0, 0, 1); in {
+			t.Error("P1: no set has a point")
+		}
+		if _, e := x.Has(0, 0, 0); e != api.ErrArg {
+			t.Errorf("P1: Has of no set = %d, want ErrArg", e)
+		}
+		if p, q, d, e := x.Separate(nil); p != "" || q != "" || d != "" || e != api.ErrInvalid {
+			t.Errorf("P1: Separate of no set from none = %q, %q, %q, %d", p, q, d, e)
+		}
+		if p, q, d, e := mustDecode(t, square).Separate(x); (p == "" || q == "" || d == "") != (e != api.OK) {
+			t.Errorf("P1: Separate from no set = %q, %q, %q, %d", p, q, d, e)
 		}
 	}
 }

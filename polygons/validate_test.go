@@ -247,13 +247,7 @@ func TestLeastIsTold(t *testing.T) {
 // P1: Validate tells one of the clauses of whatever set, of the longest too.
 func TestValidateEnds(t *testing.T) {
 	same := make([]api.Pt, api.MaxPoints)
-	comb := make([]api.Pt, api.MaxPoints)
 	fan := [][][]api.Pt{}
-	for i := range comb {
-		comb[i] = api.Pt{X: api.MaxCoord - 600*i, Y: api.MaxCoord * (i % 2)}
-	}
-	comb[api.MaxPoints-2] = api.Pt{X: -api.MaxCoord, Y: -api.MaxCoord}
-	comb[api.MaxPoints-1] = comb[0]
 	for i := range api.MaxPolys {
 		fan = append(fan, [][]api.Pt{ring(0, 0, api.MaxCoord, 4000*i, api.MaxCoord, 4000*i+3999, 0, 0)})
 	}
@@ -265,7 +259,7 @@ func TestValidateEnds(t *testing.T) {
 		m      [][][]api.Pt
 		clause int
 	}{
-		{[][][]api.Pt{{same}}, api.Ring}, {[][][]api.Pt{{comb}}, api.Valid}, {fan, api.Valid}, {[][][]api.Pt{rings}, api.Rings},
+		{[][][]api.Pt{{same}}, api.Ring}, {[][][]api.Pt{{comb()}}, api.Valid}, {fan, api.Valid}, {[][][]api.Pt{rings}, api.Rings},
 	} {
 		if v := mustMake(t, c.m).Validate(); v != c.clause {
 			t.Errorf("P1: Validate of case %d = %d, want %d", i, v, c.clause)
